@@ -3,6 +3,7 @@ package mem
 import (
 	"math"
 	"math/rand"
+	"slices"
 	"testing"
 
 	"burin/api"
@@ -274,6 +275,8 @@ func TestGreatBlocks(t *testing.T) {
 	for range 200000 {
 		alloc(t, m, api.MaxCells, 0, api.OK)
 		store(t, m, 0, 1, 5, api.OK)
+		store(t, m, 0, api.MaxCells-1, 5, api.OK)
+		store(t, m, 0, 1, 0, api.OK)
 		keep(t, m, 0, api.OK)
 	}
 	counts(t, m, 0, 0)
@@ -322,21 +325,43 @@ func TestZeroAndCopies(t *testing.T) {
 	}
 }
 
+// P1: a copy that has blocks of its own meets cells that it doesn't hold, and others at their places.
+func TestCopyOfItsOwn(t *testing.T) {
+	m := New()
+	alloc(t, m, 9, 0, api.OK)
+	dup := *m
+	for dup.Blocks() < 9 {
+		dup.Alloc(1)
+	}
+	for _, x := range []*Mem{m, &dup} {
+		for _, y := range []*Mem{m, &dup} {
+			for off := range 9 {
+				x.Store(Addr{0, 8 - off}, 5)
+				y.Store(Addr{0, off}, int64(off%3))
+				x.Store(Addr{0, off}, 0)
+				y.Store(Addr{0, 8 - off}, 0)
+			}
+		}
+	}
+	m.Keep(0)
+	dup.Keep(0)
+}
+
 // tidy asks whether just the cells of p that aren't 0 take room, and are counted.
 func tidy(t *testing.T, m *Mem, p plain) {
 	t.Helper()
 	all := 0
 	for number, b := range p {
-		held := 0
-		for _, v := range b {
+		var held []int
+		for off, v := range b {
 			if v != 0 {
-				held++
+				held = append(held, off)
 			}
 		}
-		if m.blocks[number].held != held {
-			t.Errorf("block %d: %d cells are held; want %d", number, m.blocks[number].held, held)
+		if got := slices.Sorted(slices.Values(m.blocks[number].held)); !slices.Equal(got, held) {
+			t.Errorf("block %d: the cells %v are held; want %v", number, got, held)
 		}
-		all += held
+		all += len(held)
 	}
 	if len(m.cells) != all {
 		t.Errorf("%d cells stand there; want %d", len(m.cells), all)
