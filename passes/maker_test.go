@@ -4,6 +4,7 @@ import (
 	"math/rand"
 
 	"burin/api"
+	"burin/ir"
 )
 
 // maker makes right code at random: of any instructions, in few registers.
@@ -31,9 +32,9 @@ func (m *maker) number() int64 {
 	return int64(m.Intn(12)) - 3
 }
 
-// op: any, but most often an IConst, an IMove or an Add.
+// op: any, but most often an IConst, an IMove, an Add or an IPrint.
 func (m *maker) op() byte {
-	switch m.Intn(8) {
+	switch m.Intn(12) {
 	case 0, 1:
 		return api.IMove
 	case 2, 3:
@@ -42,6 +43,8 @@ func (m *maker) op() byte {
 		return api.Add
 	case 5:
 		return 20 + byte(m.Intn(14))
+	case 6, 7:
+		return api.IPrint
 	}
 	return 1 + byte(m.Intn(16))
 }
@@ -92,6 +95,28 @@ func (m *maker) noise(i api.Inst) api.Inst {
 	return i
 }
 
+// again: one of a part's last instructions once more, mostly into another register, and perhaps printed; its numbers may come in the other order.
+func (m *maker) again(f *api.Fn, insts []api.Inst) []api.Inst {
+	i := insts[len(insts)-1-m.Intn(min(len(insts), 4))]
+	i.Args = append([]int(nil), i.Args...)
+	if ir.Dst(i) {
+		i.Dst = m.Intn(f.Regs)
+	}
+	switch m.Intn(6) {
+	case 0, 1:
+		if len(ir.Uses(i)) == 2 {
+			i.A, i.B = i.B, i.A
+		}
+	case 2:
+		i.Type = byte(m.Intn(6))
+	}
+	l := []api.Inst{m.noise(i)}
+	if ir.Dst(i) && m.Intn(2) == 0 {
+		l = append(l, api.Inst{Op: api.IPrint, A: i.Dst})
+	}
+	return l
+}
+
 // lead gets an address into a register ahead of an instruction that looks there, so that not nearly all of them trap.
 func (m *maker) lead(f *api.Fn, i api.Inst) []api.Inst {
 	if i.Op != api.ILoad && i.Op != api.IStore || m.Intn(12) == 0 {
@@ -108,6 +133,17 @@ func (m *maker) lead(f *api.Fn, i api.Inst) []api.Inst {
 	return []api.Inst{lead, i}
 }
 
+// first gives some registers a number, so that not nearly all are 0.
+func (m *maker) first(f *api.Fn) []api.Inst {
+	var l []api.Inst
+	for register := range f.Regs {
+		if m.Intn(3) > 0 {
+			l = append(l, api.Inst{Op: api.IConst, Dst: register, Imm: m.number()})
+		}
+	}
+	return l
+}
+
 func (m *maker) function(number int, last bool) {
 	f := api.Fn{Regs: 1 + m.Intn(6), Slots: m.cells(), Parts: make([]api.Part, 1+m.Intn(5))}
 	if !last {
@@ -115,7 +151,14 @@ func (m *maker) function(number int, last bool) {
 	}
 	for i := range f.Parts {
 		p := &f.Parts[i]
+		if i == 0 {
+			p.Insts = m.first(&f)
+		}
 		for range m.Intn(14) {
+			if len(p.Insts) > 0 && m.Intn(5) == 0 {
+				p.Insts = append(p.Insts, m.again(&f, p.Insts)...)
+				continue
+			}
 			p.Insts = append(p.Insts, m.lead(&f, m.inst(&f, number))...)
 		}
 		p.Next, p.Else, p.Cond = m.Intn(len(f.Parts)), m.Intn(len(f.Parts)), m.Intn(f.Regs+1)-1

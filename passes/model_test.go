@@ -1,6 +1,7 @@
 package passes
 
 import (
+	"reflect"
 	"slices"
 
 	"burin/api"
@@ -102,6 +103,61 @@ func propOf(p *api.Part, fault bool) {
 	}
 }
 
+// looked: an instruction with nothing but what it looks at, if it is one of those that aren't reckoned twice.
+func looked(i api.Inst) (api.Inst, bool) {
+	switch {
+	case i.Op <= api.Ne:
+		return api.Inst{Op: i.Op, Type: i.Type, A: i.A, B: i.B}, true
+	case i.Op == api.INeg, i.Op == api.INot, i.Op == api.IBang, i.Op == api.ICast:
+		return api.Inst{Op: i.Op, Type: i.Type, A: i.A}, true
+	case i.Op == api.IConst, i.Op == api.ISlot, i.Op == api.IGlobal:
+		return api.Inst{Op: i.Op, Imm: i.Imm}, true
+	case i.Op == api.IIndex:
+		return api.Inst{Op: i.Op, A: i.A, B: i.B, Imm: i.Imm}, true
+	case i.Op == api.IOff:
+		return api.Inst{Op: i.Op, A: i.A, Imm: i.Imm}, true
+	}
+	return api.Inst{}, false
+}
+
+// sameSum: are two instructions the same to layer 18?
+func sameSum(a, b api.Inst, fault bool) bool {
+	a, ok := looked(a)
+	b, also := looked(b)
+	if !ok || !also {
+		return false
+	}
+	other := b
+	other.A, other.B = b.B, b.A
+	return reflect.DeepEqual(a, b) || fault && b.Op <= api.Ne && reflect.DeepEqual(a, other)
+}
+
+// twin: the place of the instruction that has reckoned already what another one behind these would; -1, if there is none.
+func twin(before []api.Inst, i api.Inst, fault bool) int {
+	for at, first := range slices.Backward(before) {
+		if !sameSum(first, i, fault) {
+			continue
+		}
+		written := wroteLast(before[at+1:], first.Dst) >= 0
+		for _, read := range readBy(&first) {
+			written = written || *read == first.Dst || wroteLast(before[at+1:], *read) >= 0
+		}
+		if !written {
+			return at
+		}
+	}
+	return -1
+}
+
+// cseOf: what layer 18 makes of a part.
+func cseOf(p *api.Part, fault bool) {
+	for k, i := range p.Insts {
+		if at := twin(p.Insts[:k], i, fault); at >= 0 {
+			p.Insts[k] = api.Inst{Op: api.IMove, Dst: i.Dst, A: p.Insts[at].Dst}
+		}
+	}
+}
+
 // leftByFold: is there what P16.1 says is not left?
 func leftByFold(p api.Part, _ bool) bool {
 	for k, i := range p.Insts {
@@ -124,6 +180,16 @@ func leftByProp(p api.Part, fault bool) bool {
 	return p.Cond >= 0 && original(p.Insts, p.Cond, fault) >= 0
 }
 
+// leftByCse: is there what P18.1 says is not left; with the fault, P18.2?
+func leftByCse(p api.Part, fault bool) bool {
+	for k, i := range p.Insts {
+		if twin(p.Insts[:k], i, fault) >= 0 {
+			return true
+		}
+	}
+	return false
+}
+
 // eachPart changes all parts of a copy.
 func eachPart(c api.Code, change func(*api.Part)) api.Code {
 	c = ir.Copy(c)
@@ -139,6 +205,12 @@ func eachPart(c api.Code, change func(*api.Part)) api.Code {
 func blankFold(p *api.Part) {
 	for k := range p.Insts {
 		p.Insts[k] = api.Inst{}
+	}
+}
+
+func blankCse(p *api.Part) {
+	for k, i := range p.Insts {
+		p.Insts[k] = api.Inst{Dst: i.Dst}
 	}
 }
 

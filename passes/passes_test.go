@@ -1,4 +1,4 @@
-// Package passes asks the layers that make code of code what holds for all of them: that both sides do the same, for code of programs and code made up at random; that what is left, and what a fault does, is what their chapters say; and the rules of errors and of memory.
+// Package passes asks the layers that make code of code what holds for all of them: that both sides do the same, for code of programs and code made up at random; that what is left, and what a fault does, is what their chapters say; and the rules of errors and of memory. What layer 19 tells of such code is asked here, too.
 package passes
 
 import (
@@ -8,6 +8,7 @@ import (
 	"testing"
 
 	"burin/api"
+	"burin/cse"
 	"burin/fold"
 	"burin/gen"
 	"burin/ir"
@@ -26,10 +27,14 @@ type pass struct {
 	blank func(*api.Part)           // makes 0 of what may be changed
 }
 
-func table() []pass {
-	return []pass{
+// passes is how many there are.
+const passes = 3
+
+func table() [passes]pass {
+	return [passes]pass{
 		{"fold", fold.Run, foldOf, leftByFold, blankFold},
 		{"prop", prop.Run, propOf, leftByProp, blankProp},
+		{"cse", cse.Run, cseOf, leftByCse, blankCse},
 	}
 }
 
@@ -66,7 +71,7 @@ func outcome(t *testing.T, c api.Code, fuel int) api.Outcome {
 	return o
 }
 
-// both runs both sides; neither pass moves a trap, so what doesn't halt is alike, too.
+// both runs both sides; none of these passes moves a trap, so what doesn't halt is alike, too.
 func (p pass) both(t *testing.T, c api.Code, fuel int) api.Outcome {
 	t.Helper()
 	d := p.of(t, c, false)
@@ -77,28 +82,36 @@ func (p pass) both(t *testing.T, c api.Code, fuel int) api.Outcome {
 	return want
 }
 
-// P16.1, P17.1, P5: code made up of any right instructions does the same behind each pass, and behind one after the other; P16.2, P17.2: what the fault makes of it is what the chapter says, and nothing else.
+// asSaid: what a pass makes of right code, which must be what is made of its parts a second way.
+func (p pass) asSaid(t *testing.T, c api.Code, fault bool) api.Code {
+	t.Helper()
+	d := p.of(t, c, fault)
+	if want := eachPart(c, func(part *api.Part) { p.part(part, fault) }); !reflect.DeepEqual(d, want) {
+		t.Fatalf("%s(%+v, %v) = %+v; want %+v", p.name, c, fault, d, want)
+	}
+	return d
+}
+
+// P16.1, P17.1, P18.1, P5: code made up of any right instructions does the same behind each pass, and behind one after the other; P16.2, P17.2, P18.2: what the fault makes of it is what the chapter says, and nothing else.
 func TestMadeUp(t *testing.T) {
 	r := rand.New(rand.NewSource(16))
-	var halted, spent, wrong [2]int
+	var halted, spent, changed, wrong [passes]int
 	traps := map[api.Trap]int{}
-	for range 12000 {
+	for range 9000 {
 		c := madeUp(r)
 		for n, p := range table() {
 			o := p.both(t, c, 400)
+			right, faulty := p.asSaid(t, c, false), p.asSaid(t, c, true)
 			for _, other := range table() {
-				other.both(t, p.of(t, c, false), 400)
+				other.both(t, right, 400)
 			}
-			for _, fault := range []bool{false, true} {
-				want := eachPart(c, func(part *api.Part) { p.part(part, fault) })
-				if d := p.of(t, c, fault); !reflect.DeepEqual(d, want) {
-					t.Fatalf("%s(%+v, %v) = %+v; want %+v", p.name, c, fault, d, want)
-				}
+			if !reflect.DeepEqual(right, faulty) {
+				changed[n]++
 			}
 			switch {
 			case o.Halted:
 				halted[n]++
-				if !alike(o, outcome(t, p.of(t, c, true), 400)) {
+				if !alike(o, outcome(t, faulty, 400)) {
 					wrong[n]++
 				}
 			case o.Fuel:
@@ -107,10 +120,10 @@ func TestMadeUp(t *testing.T) {
 			traps[o.Trap]++
 		}
 	}
-	t.Logf("%d halted, %d spent, traps %v; made wrong by the fault: %d", halted, spent, traps, wrong)
+	t.Logf("%d halted, %d spent, traps %v; changed by the fault: %d, made wrong: %d", halted, spent, traps, changed, wrong)
 	for n, p := range table() {
-		if halted[n] < 1000 || spent[n] < 1000 || wrong[n] < 100 {
-			t.Errorf("%s: %d halted, %d spent, %d wrong by the fault", p.name, halted[n], spent[n], wrong[n])
+		if halted[n] < 1000 || spent[n] < 1000 || changed[n] < 500 || wrong[n] < 10 {
+			t.Errorf("%s: %d halted, %d spent, %d changed by the fault, %d wrong", p.name, halted[n], spent[n], changed[n], wrong[n])
 		}
 	}
 	if len(traps) < 6 {
@@ -149,10 +162,10 @@ func read(t *testing.T, s string) api.Code {
 	return lowered(t, n)
 }
 
-// P16.1, P17.1, P5: the code of programs from draws.
+// P16.1, P17.1, P18.1, P5: the code of programs from draws.
 func TestDrawn(t *testing.T) {
 	r := rand.New(rand.NewSource(17))
-	prints, changed, wrong := 0, 0, [2]int{}
+	prints, changed, wrong := 0, 0, [passes]int{}
 	for range 1200 {
 		c := lowered(t, drawn(t, r))
 		for n, p := range table() {
@@ -174,7 +187,7 @@ func TestDrawn(t *testing.T) {
 		}
 	}
 	t.Logf("%d numbers printed, %d codes changed; made wrong by the fault: %d", prints, changed, wrong)
-	if prints < 5000 || changed < 500 || wrong[0] < 20 { // a source that is written while its copy is still read is seldom drawn
+	if prints < 5000 || changed < 500 || wrong[0] < 20 { // what the other faults make wrong is seldom drawn
 		t.Errorf("%d numbers printed, %d codes changed, %d wrong by the fault", prints, changed, wrong)
 	}
 }
@@ -193,7 +206,7 @@ var texts = []string{
 	"struct s { i8 x; u8 y; } struct s v; i32 main() { i8 x = -1i8; v.x = x; v.y = 3u8; x = v.x ? x : -x; print(x && v.y || 1u8); print(x); i32 k; for i = 0i32 to 16i32 { k = k * 3i32 + i; } return k; }",
 }
 
-// P16.1, P17.1: the code of these, which may trap; P5: they stand one behind the other.
+// P16.1, P17.1, P18.1: the code of these, which may trap; P5: they stand one behind the other.
 func TestTexts(t *testing.T) {
 	traps := map[api.Trap]int{}
 	for _, s := range texts {
@@ -216,7 +229,7 @@ func TestTexts(t *testing.T) {
 	}
 }
 
-// P16.2, P17.2: programs that the faults make wrong.
+// P16.2, P17.2, P18.2: programs that the faults make wrong.
 func TestFaults(t *testing.T) {
 	five := read(t, "i32 main() { print(2i32 + 3i32); return 0i32; }")
 	for fault, want := range map[bool]int64{false: 5, true: 6} {
@@ -230,6 +243,13 @@ func TestFaults(t *testing.T) {
 		d, _ := prop.Run(kept, fault)
 		if o := outcome(t, d, 99); !slices.Equal(o.Trace, []int64{want}) || o.Exit != 2 {
 			t.Errorf("prop, fault %v: %+v", fault, o)
+		}
+	}
+	twice := read(t, "i32 f(i32 x, i32 y) { print(x - y); print(y - x); print(x - y); return 0i32; } i32 main() { i32 r; r = f(5i32, 3i32); return r; }")
+	for fault, want := range map[bool]int64{false: -2, true: 2} {
+		d, _ := cse.Run(twice, fault)
+		if o := outcome(t, d, 99); !slices.Equal(o.Trace, []int64{2, want, 2}) || o.Exit != 0 {
+			t.Errorf("cse, fault %v: %+v", fault, o)
 		}
 	}
 }

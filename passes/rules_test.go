@@ -29,7 +29,7 @@ func row(regs, many int, i api.Inst) api.Fn {
 	return api.Fn{Regs: regs, Parts: []api.Part{{Insts: slices.Repeat([]api.Inst{i}, many), End: true}}}
 }
 
-// P16.1, P17.1, P1: code that isn't right.
+// P16.1, P17.1, P18.1, P1: code that isn't right.
 func TestErrors(t *testing.T) {
 	move := api.Inst{Op: api.IMove}
 	of := func(fns ...api.Fn) api.Code { return api.Code{Fns: fns} }
@@ -86,7 +86,7 @@ func TestErrors(t *testing.T) {
 	}
 }
 
-// P1: as many registers and instructions as there may be: moves in a long row, the one way about and the other, and all read at the end.
+// P1: as many registers and instructions as there may be: moves in a long row, the one way about and the other, and all read at the end; numbers and sums that are never the same; many parts, and many functions.
 func TestGreatCode(t *testing.T) {
 	for _, step := range []int{1, -1} {
 		insts := []api.Inst{{Op: api.IConst, Dst: 0, Imm: 5}}
@@ -111,12 +111,20 @@ func TestGreatCode(t *testing.T) {
 			}
 		}
 	}
+	insts := make([]api.Inst, api.MaxInsts-1)
+	for k := range insts {
+		insts[k] = api.Inst{Op: api.IConst, Dst: k % api.MaxRegs, Imm: int64(k)}
+		if k%3 > 0 {
+			insts[k] = api.Inst{Op: api.Xor, Dst: k % api.MaxRegs, A: k / 3, B: k * k % api.MaxRegs}
+		}
+	}
+	sums := api.Code{Fns: []api.Fn{{Regs: api.MaxRegs, Parts: []api.Part{{Insts: insts, End: true}}}}}
 	parts := make([]api.Part, api.MaxInsts/2)
 	for k := range parts {
 		parts[k] = api.Part{Insts: []api.Inst{{Op: api.IMove, Dst: api.MaxRegs - 1}}, Cond: api.MaxRegs - 1, Next: k, Else: 0}
 	}
 	fns := slices.Repeat([]api.Fn{{Params: api.MaxRegs, Regs: api.MaxRegs, Parts: parts[:1]}}, api.MaxInsts/2-1)
-	for _, c := range []api.Code{{Fns: []api.Fn{{Regs: api.MaxRegs, Parts: parts}}}, {Fns: append(fns, row(1, 0, api.Inst{}))}} {
+	for _, c := range []api.Code{sums, {Fns: []api.Fn{{Regs: api.MaxRegs, Parts: parts}}}, {Fns: append(fns, row(1, 0, api.Inst{}))}} {
 		for _, p := range table() {
 			for _, fault := range []bool{false, true} {
 				if _, e := p.run(c, fault); e != api.OK {
