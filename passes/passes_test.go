@@ -9,6 +9,8 @@ import (
 
 	"burin/api"
 	"burin/cse"
+	"burin/dead"
+	"burin/flow"
 	"burin/fold"
 	"burin/gen"
 	"burin/ir"
@@ -18,10 +20,23 @@ import (
 	"burin/run"
 )
 
-// pass is such a layer, and what its chapter asks for.
+// layer is such a layer.
+type layer struct {
+	name string
+	run  func(api.Code, bool) (api.Code, api.Errno)
+}
+
+func layers() []layer {
+	l := []layer{{"dead", dead.Run}, {"flow", flow.Run}}
+	for _, p := range table() {
+		l = append(l, p.layer)
+	}
+	return l
+}
+
+// pass is one of those that leave all instructions in their places, and what its chapter asks for.
 type pass struct {
-	name  string
-	run   func(api.Code, bool) (api.Code, api.Errno)
+	layer
 	part  func(*api.Part, bool)     // what becomes of a part, with the fault and without
 	left  func(api.Part, bool) bool // is there what mustn't be left?
 	blank func(*api.Part)           // makes 0 of what may be changed
@@ -32,9 +47,9 @@ const passes = 3
 
 func table() [passes]pass {
 	return [passes]pass{
-		{"fold", fold.Run, foldOf, leftByFold, blankFold},
-		{"prop", prop.Run, propOf, leftByProp, blankProp},
-		{"cse", cse.Run, cseOf, leftByCse, blankCse},
+		{layer{"fold", fold.Run}, foldOf, leftByFold, blankFold},
+		{layer{"prop", prop.Run}, propOf, leftByProp, blankProp},
+		{layer{"cse", cse.Run}, cseOf, leftByCse, blankCse},
 	}
 }
 
@@ -60,6 +75,13 @@ func (p pass) of(t *testing.T, c api.Code, fault bool) api.Code {
 
 func alike(a, b api.Outcome) bool {
 	return a.Halted == b.Halted && a.Exit == b.Exit && a.Trap == b.Trap && a.Fuel == b.Fuel && a.Steps == b.Steps && slices.Equal(a.Trace, b.Trace)
+}
+
+// noLonger: does the other side halt as this one does, in no more steps?
+func noLonger(want, got api.Outcome) bool {
+	steps := got.Steps
+	got.Steps = want.Steps
+	return want.Halted && alike(want, got) && steps <= want.Steps
 }
 
 func outcome(t *testing.T, c api.Code, fuel int) api.Outcome {
@@ -229,7 +251,7 @@ func TestTexts(t *testing.T) {
 	}
 }
 
-// P16.2, P17.2, P18.2: programs that the faults make wrong.
+// P16.2, P17.2, P18.2, P20.2, P21.2: programs that the faults make wrong.
 func TestFaults(t *testing.T) {
 	five := read(t, "i32 main() { print(2i32 + 3i32); return 0i32; }")
 	for fault, want := range map[bool]int64{false: 5, true: 6} {
@@ -250,6 +272,21 @@ func TestFaults(t *testing.T) {
 		d, _ := cse.Run(twice, fault)
 		if o := outcome(t, d, 99); !slices.Equal(o.Trace, []int64{2, want, 2}) || o.Exit != 0 {
 			t.Errorf("cse, fault %v: %+v", fault, o)
+		}
+	}
+	stored := read(t, "i32 g; i32 main() { g = 1i32; print(g); return 0i32; }")
+	for fault, want := range map[bool]int64{false: 1, true: 0} {
+		d, _ := dead.Run(stored, fault)
+		if o := outcome(t, d, 99); !slices.Equal(o.Trace, []int64{want}) || o.Exit != 0 {
+			t.Errorf("dead, fault %v: %+v", fault, o)
+		}
+	}
+	known := read(t, "i32 main() { if (1i32) { print(1i32); } else { print(2i32); } return 0i32; }")
+	for fault, want := range map[bool]int64{false: 1, true: 2} {
+		d, _ := fold.Run(known, false)
+		d, _ = flow.Run(d, fault)
+		if o := outcome(t, d, 99); !slices.Equal(o.Trace, []int64{want}) || o.Exit != 0 {
+			t.Errorf("flow, fault %v: %+v", fault, o)
 		}
 	}
 }

@@ -11,7 +11,7 @@ import (
 )
 
 // refused asks that nothing is told but ir.Valid's error, with the fault and without.
-func (p pass) refused(t *testing.T, c api.Code, want api.Errno) {
+func (p layer) refused(t *testing.T, c api.Code, want api.Errno) {
 	t.Helper()
 	if e := ir.Valid(c); e != want {
 		t.Fatalf("Valid = %d; want %d", e, want)
@@ -29,7 +29,7 @@ func row(regs, many int, i api.Inst) api.Fn {
 	return api.Fn{Regs: regs, Parts: []api.Part{{Insts: slices.Repeat([]api.Inst{i}, many), End: true}}}
 }
 
-// P16.1, P17.1, P18.1, P1: code that isn't right.
+// P16.1, P17.1, P18.1, P20.1, P21.1, P1: code that isn't right.
 func TestErrors(t *testing.T) {
 	move := api.Inst{Op: api.IMove}
 	of := func(fns ...api.Fn) api.Code { return api.Code{Fns: fns} }
@@ -66,7 +66,7 @@ func TestErrors(t *testing.T) {
 		{wrong(func(i *api.Inst) { i.Dst = -1 << 63 }), api.ErrForm},
 		{wrong(func(i *api.Inst) { i.Op = api.ICall }), api.ErrForm},
 	} {
-		for _, p := range table() {
+		for _, p := range layers() {
 			p.refused(t, r.c, r.e)
 		}
 	}
@@ -77,7 +77,7 @@ func TestErrors(t *testing.T) {
 		spoil(r, &c)
 		e := ir.Valid(c)
 		seen[e]++
-		for _, p := range table() {
+		for _, p := range layers() {
 			p.refused(t, c, e)
 		}
 	}
@@ -101,9 +101,9 @@ func TestGreatCode(t *testing.T) {
 			insts = append(insts, api.Inst{Op: api.IPrint, A: k % api.MaxRegs})
 		}
 		c := api.Code{Fns: []api.Fn{{Regs: api.MaxRegs, Parts: []api.Part{{Insts: insts, End: true, Cond: api.MaxRegs - 1}}}}}
-		for _, p := range table() {
+		for _, p := range layers() {
 			d, e := p.run(c, false)
-			if e != api.OK || !alike(outcome(t, c, api.MaxFuel), outcome(t, d, api.MaxFuel)) {
+			if e != api.OK || !noLonger(outcome(t, c, api.MaxFuel), outcome(t, d, api.MaxFuel)) {
 				t.Errorf("%s: %d", p.name, e)
 			}
 			if _, e := p.run(c, true); e != api.OK {
@@ -125,7 +125,7 @@ func TestGreatCode(t *testing.T) {
 	}
 	fns := slices.Repeat([]api.Fn{{Params: api.MaxRegs, Regs: api.MaxRegs, Parts: parts[:1]}}, api.MaxInsts/2-1)
 	for _, c := range []api.Code{sums, {Fns: []api.Fn{{Regs: api.MaxRegs, Parts: parts}}}, {Fns: append(fns, row(1, 0, api.Inst{}))}} {
-		for _, p := range table() {
+		for _, p := range layers() {
 			for _, fault := range []bool{false, true} {
 				if _, e := p.run(c, fault); e != api.OK {
 					t.Errorf("%s, fault %v: %d", p.name, fault, e)
@@ -245,10 +245,13 @@ func TestMemory(t *testing.T) {
 	r := rand.New(rand.NewSource(19))
 	for n := range 3000 {
 		c := madeUp(r)
+		if n%3 == 0 {
+			c = tangled(r)
+		}
 		if n%10 == 0 {
 			spoil(r, &c)
 		}
-		for _, p := range table() {
+		for _, p := range layers() {
 			for _, fault := range []bool{false, true} {
 				handed := withRoom(c)
 				held := inner(handed)
