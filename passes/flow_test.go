@@ -238,30 +238,38 @@ func TestFlowDrawn(t *testing.T) {
 	}
 }
 
-// P5: passes one behind the other, in any order, each several times, do what the code did.
+// P5: passes one behind the other, in any order, each several times, do what the code did; in no more steps, if layer 22 isn't among them.
 func TestAnyOrder(t *testing.T) {
 	r := rand.New(rand.NewSource(29))
 	halted := 0
 	for n := range 6000 {
 		c, fuel := tangled(r), 400
-		if n%20 == 0 {
+		switch {
+		case n%20 == 0:
 			c, fuel = lowered(t, drawn(t, r)), api.MaxFuel
+		case n%3 == 0:
+			c = asking(r)
 		}
 		want := outcome(t, c, fuel)
 		if !want.Halted {
 			continue
 		}
 		halted++
-		d := c
+		d, most := c, want.Steps
 		for range 10 {
 			l := layers()[r.Intn(len(layers()))]
 			var e api.Errno
 			if d, e = l.run(d, false); e != api.OK || ir.Valid(d) != api.OK {
 				t.Fatalf("%s: %d, Valid %d", l.name, e, ir.Valid(d))
 			}
+			if l.name == "inline" {
+				most = 200 + 200*want.Steps
+			}
 		}
-		if got := outcome(t, d, fuel); !noLonger(want, got) {
-			t.Fatalf("%+v became %+v: %+v; want %+v", c, d, got, want)
+		got := outcome(t, d, api.MaxFuel)
+		steps := got.Steps
+		if got.Steps = want.Steps; !alike(want, got) || steps > most {
+			t.Fatalf("%+v became %+v: %+v in %d steps; want %+v", c, d, got, steps, want)
 		}
 	}
 	if halted < 1000 {

@@ -11,6 +11,7 @@ import (
 type maker struct {
 	*rand.Rand
 	code api.Code
+	more int // so many registers more than those few
 }
 
 func (m *maker) cells() []int {
@@ -145,7 +146,7 @@ func (m *maker) first(f *api.Fn) []api.Inst {
 }
 
 func (m *maker) function(number int, last bool) {
-	f := api.Fn{Regs: 1 + m.Intn(6), Slots: m.cells(), Parts: make([]api.Part, 1+m.Intn(5))}
+	f := api.Fn{Regs: 1 + m.Intn(6) + m.more, Slots: m.cells(), Parts: make([]api.Part, 1+m.Intn(5))}
 	if !last {
 		f.Params = m.Intn(f.Regs + 1)
 	}
@@ -172,8 +173,12 @@ func (m *maker) function(number int, last bool) {
 	m.code.Fns = append(m.code.Fns, f)
 }
 
-func madeUp(r *rand.Rand) api.Code {
-	m := maker{Rand: r}
+func madeUp(r *rand.Rand) api.Code { return madeOf(maker{Rand: r}) }
+
+// crowded: right code at random in so many registers that not all of a function are in the machine's.
+func crowded(r *rand.Rand) api.Code { return madeOf(maker{Rand: r, more: r.Intn(30)}) }
+
+func madeOf(m maker) api.Code {
 	m.code.Globals = m.cells()
 	for range m.code.Globals {
 		m.code.Inits = append(m.code.Inits, m.number())

@@ -1,4 +1,4 @@
-// Package passes asks the layers that make code of code what holds for all of them: that both sides do the same, for code of programs and code made up at random; that what is left, and what a fault does, is what their chapters say; and the rules of errors and of memory. What layer 19 tells of such code is asked here, too.
+// Package passes asks the layers that make code of code what holds for all of them: that both sides do the same, for code of programs and code made up at random; that what is left, and what a fault does, is what their chapters say; and the rules of errors and of memory. What layers 19 and 23 tell of such code is asked here, too.
 package passes
 
 import (
@@ -13,6 +13,7 @@ import (
 	"burin/flow"
 	"burin/fold"
 	"burin/gen"
+	"burin/inline"
 	"burin/ir"
 	"burin/lower"
 	"burin/parse"
@@ -27,7 +28,7 @@ type layer struct {
 }
 
 func layers() []layer {
-	l := []layer{{"dead", dead.Run}, {"flow", flow.Run}}
+	l := []layer{{"inline", inline.Run}, {"dead", dead.Run}, {"flow", flow.Run}}
 	for _, p := range table() {
 		l = append(l, p.layer)
 	}
@@ -251,7 +252,7 @@ func TestTexts(t *testing.T) {
 	}
 }
 
-// P16.2, P17.2, P18.2, P20.2, P21.2: programs that the faults make wrong.
+// P16.2, P17.2, P18.2, P20.2, P21.2, P22.2: programs that the faults make wrong.
 func TestFaults(t *testing.T) {
 	five := read(t, "i32 main() { print(2i32 + 3i32); return 0i32; }")
 	for fault, want := range map[bool]int64{false: 5, true: 6} {
@@ -287,6 +288,13 @@ func TestFaults(t *testing.T) {
 		d, _ = flow.Run(d, fault)
 		if o := outcome(t, d, 99); !slices.Equal(o.Trace, []int64{want}) || o.Exit != 0 {
 			t.Errorf("flow, fault %v: %+v", fault, o)
+		}
+	}
+	ordered := read(t, "u32 f(u32 x, u32 y) { return x ^ (y << 1u8); } i32 main() { u32 r; r = f(1u32, 2u32); print(r); return 0i32; }")
+	for fault, want := range map[bool]int64{false: 5, true: 0} {
+		d, _ := inline.Run(ordered, fault)
+		if o := outcome(t, d, 99); !slices.Equal(o.Trace, []int64{want}) || o.Exit != 0 {
+			t.Errorf("inline, fault %v: %+v", fault, o)
 		}
 	}
 }

@@ -29,7 +29,7 @@ func row(regs, many int, i api.Inst) api.Fn {
 	return api.Fn{Regs: regs, Parts: []api.Part{{Insts: slices.Repeat([]api.Inst{i}, many), End: true}}}
 }
 
-// P16.1, P17.1, P18.1, P20.1, P21.1, P1: code that isn't right.
+// P16.1, P17.1, P18.1, P20.1, P21.1, P22.1, P1: code that isn't right.
 func TestErrors(t *testing.T) {
 	move := api.Inst{Op: api.IMove}
 	of := func(fns ...api.Fn) api.Code { return api.Code{Fns: fns} }
@@ -72,8 +72,11 @@ func TestErrors(t *testing.T) {
 	}
 	r := rand.New(rand.NewSource(18))
 	seen := map[api.Errno]int{}
-	for range 20000 {
+	for n := range 20000 {
 		c := madeUp(r)
+		if n%4 == 0 {
+			c = asking(r)
+		}
 		spoil(r, &c)
 		e := ir.Valid(c)
 		seen[e]++
@@ -244,10 +247,7 @@ func (l *lists) apart(t *testing.T) {
 func TestMemory(t *testing.T) {
 	r := rand.New(rand.NewSource(19))
 	for n := range 3000 {
-		c := madeUp(r)
-		if n%3 == 0 {
-			c = tangled(r)
-		}
+		c := []func(*rand.Rand) api.Code{madeUp, tangled, asking}[n%3](r)
 		if n%10 == 0 {
 			spoil(r, &c)
 		}
