@@ -28,7 +28,11 @@ func (s Set) Has(r int) bool {
 
 // List: they, rising.
 func (s Set) List() []int {
-	var list []int
+	many := 0
+	for _, w := range s.words {
+		many += bits.OnesCount64(w.bits)
+	}
+	list := make([]int, 0, many)
 	for _, w := range s.words {
 		for rest := w.bits; rest != 0; rest &= rest - 1 {
 			list = append(list, w.at<<6+bits.TrailingZeros64(rest))

@@ -1,4 +1,4 @@
-// Package passes asks the layers that make code of code what holds for all of them: that both sides do the same, for code of programs and code made up at random; that what is left, and what a fault does, is what their chapters say; and the rules of errors and of memory. What layers 19 and 23 tell of such code is asked here, too.
+// Package passes asks the layers that make code of code what holds for all of them: that both sides do the same, for code of programs and code made up at random; that what is left, and what a fault does, is what their chapters say; and the rules of errors and of memory. What layers 19 and 23 tell of such code is asked here, too, and whether the images that layer 24 makes of it do the same on the machine.
 package passes
 
 import (
